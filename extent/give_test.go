@@ -88,9 +88,9 @@ func TestGiveOfWhatIsFree(t *testing.T) {
 func TestClaim(t *testing.T) {
 	free := ex(0, 3, 5, 5, 15, 5)
 	for _, c := range [][2][]api.Extent{
-		{ex(0, 1), ex(1, 2, 5, 5, 15, 5)},       // an extent's beginning
-		{ex(2, 1), ex(0, 2, 5, 5, 15, 5)},       // its end
-		{ex(0, 3), ex(5, 5, 15, 5)},             // all of it
+		{ex(0, 1), ex(1, 2, 5, 5, 15, 5)}, // an extent's beginning
+		{ex(2, 1), ex(0, 2, 5, 5, 15, 5)}, // its end
+		{ex(0, 3), ex(5, 5, 15, 5)},       // all of it
 		{ex(5, 5), ex(0, 3, 15, 5)},
 		{ex(15, 5), ex(0, 3, 5, 5)},
 		{ex(6, 2), ex(0, 3, 5, 1, 8, 2, 15, 5)}, // its middle
